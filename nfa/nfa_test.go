@@ -510,7 +510,7 @@ func TestGreatTrees(t *testing.T) {
 	wantErr(t, []api.Re{r, r}, api.MaxNfa, api.ErrCap)
 }
 
-// Machines as great as may be, upon a long text: all states stand at each byte.
+// A great machine upon a long text: it stands at nearly all of its states at first, then at few, then nowhere.
 func TestGreatRun(t *testing.T) {
 	l := slices.Repeat([]api.Re{star(set("x"))}, 6666)
 	n, err := Build([]api.Re{cat(l...), alt(l...)}, api.MaxNfa)
